@@ -10,7 +10,7 @@ import (
 	"cloak/crowd"
 )
 
-// P9.5, P9.12, P9.15: Count and Shares agree with the enumeration; the shares add up to the count, and are 0 for those who are not possible.
+// P9.5, P9.12, P9.15, T8: Count and Shares agree with the enumeration; the shares add up to the count, and are 0 for those who are not possible.
 func TestCount(t *testing.T) {
 	r := random()
 	many := 0

@@ -98,7 +98,7 @@ func TestAssignEdges(t *testing.T) {
 	}
 }
 
-// P9.3, P9.12: the possible members are those that some assignment gives the use to.
+// P9.3, P9.12, T8: the possible members are those that some assignment gives the use to.
 func TestSets(t *testing.T) {
 	r := random()
 	some, none, single := 0, 0, 0
@@ -153,7 +153,7 @@ func TestSetsEdges(t *testing.T) {
 	}
 }
 
-// P9.4, P9.12: Witness returns the first assignment that gives the use to the member; where there is none, Block returns a set that blocks.
+// P9.4, P9.12, T8: Witness returns the first assignment that gives the use to the member; where there is none, Block returns a set that blocks.
 func TestWitnessAndBlock(t *testing.T) {
 	r := random()
 	witnesses, blocks, elsewhere := 0, 0, 0

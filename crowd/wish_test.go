@@ -31,7 +31,7 @@ func anyOwn(r *rand.Rand, c api.Crowd) []int {
 	return l
 }
 
-// P9.7, P9.18: Told returns what is possible for the further use after it was made.
+// P9.7, P9.18, T8: Told returns what is possible for the further use after it was made.
 func TestTold(t *testing.T) {
 	r := random()
 	some := 0
@@ -127,7 +127,7 @@ func TestWishExamples(t *testing.T) {
 	}
 }
 
-// P9.9, P9.18: Explain returns the first of the smallest subsets that explain; their supersets explain as well; if there is none, the use keeps the wishes, unless another group has no assignment.
+// P9.9, P9.18, T9: Explain returns the first of the smallest subsets that explain; their supersets explain as well; if there is none, the use keeps the wishes, unless another group has no assignment.
 func TestExplain(t *testing.T) {
 	r := random()
 	var sizes [4]int
@@ -238,7 +238,7 @@ func TestWishErrors(t *testing.T) {
 	}
 }
 
-// P9.10, P9.19: Relax returns the first of the cheapest options that keep the wishes.
+// P9.10, P9.19, T9: Relax returns the first of the cheapest options that keep the wishes.
 func TestRelax(t *testing.T) {
 	r := random()
 	found, ties := 0, 0
